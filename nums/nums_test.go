@@ -32,7 +32,7 @@ func numbersUpTo(n int) []int {
 	return l
 }
 
-// P1.1: ordinary numbers, and how many bytes are put at every edge.
+// P1.1: ordinary numbers, and how many bytes are put at every edge. It stops at the first fault: without a bound the last edge would fill the memory.
 func TestPut(t *testing.T) {
 	all := []byte{0x11, 0x22, 0x33, 0x44, 0x55, 0x66, 0x77, 0x88}
 	for _, c := range []struct {
@@ -58,7 +58,7 @@ func TestPut(t *testing.T) {
 		{[]byte{9}, word, math.MaxInt, append([]byte{9}, all...)},
 	} {
 		if got := nums.Put(c.b, c.n, c.bytes); !slices.Equal(got, c.want) {
-			t.Errorf("Put(%v, %d, %d) = %v, want %v", c.b, c.n, c.bytes, got, c.want)
+			t.Fatalf("Put(%v, %d, %d) = %v, want %v", c.b, c.n, c.bytes, got, c.want)
 		}
 	}
 }
